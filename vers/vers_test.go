@@ -657,6 +657,40 @@ func TestAtTellsWhatLoadTells(t *testing.T) {
 	}
 }
 
+// TestCommitGoesOnFromTheTrieItself takes the store's nodes away ahead of each call: what the store tells of a root may be another trie, where two texts have one sum, and plays no part in what Commit makes.
+func TestCommitGoesOnFromTheTrieItself(t *testing.T) {
+	b := begin(t)
+	for height, changes := range [][]api.Item{
+		changesOf("a", "1", "b", "2", "abc", "3"),
+		nil,
+		changesOf("abd", "4", "b", ""),
+		changesOf("a", "1"),
+		without(many(3)),
+		many(40),
+		changesOf("a", "", "abc", "", "abd", ""),
+		without(many(40)),
+		nil,
+		changesOf("k", "v"),
+		changesOf("k", "w"),
+	} {
+		b.v.nodes.Keep(nil)
+		if e := b.commit(height, one("more", "v"), one("", "v")); e != api.ErrRange {
+			t.Fatalf("version %d: %d", height, e)
+		}
+		if n := b.v.Texts(); n != 0 {
+			t.Fatalf("version %d, refused, has %d texts", height, n)
+		}
+		if e := b.commit(height, changes...); e != api.OK {
+			t.Fatalf("version %d: %d", height, e)
+		}
+		b.wantAt(height)
+		if height%3 == 2 { // what is kept to go on from stays, whatever goes
+			b.prune(height + 1)
+			b.wantAt(height)
+		}
+	}
+}
+
 // TestListsAreTheirs changes lists that were handed in and out, behind their length too.
 func TestListsAreTheirs(t *testing.T) {
 	b := begin(t)
